@@ -150,19 +150,27 @@ func laid(epoch int, p []byte) [][]byte {
 
 func same(a, b [][]byte) bool { return slices.EqualFunc(a, b, bytes.Equal) }
 
-// slotted is the bytes and the epoch of a slot by the chapter's words: it is complete if its first sectors are these very ones; the epoch 0 if it is not.
+// slotted is the bytes and the epoch of a slot by the chapter's words: whole pieces of one epoch up to a last one, of which no number of bytes is asked; the epoch 0 if it is not complete.
 func slotted(d *sector.Disk, first, n, slot int) ([]byte, int) {
 	var p []byte
-	var found [][]byte
-	for i := first; i < first+n; i++ {
-		b, e := d.Read(i)
+	epoch := 0
+	for k := range n {
+		b, e := d.Read(first + k)
 		if e != api.OK || len(b) < size-part {
-			break
+			return nil, 0
 		}
-		p, found = append(p, b[size-part:]...), append(found, b)
-		epoch := int(binary.BigEndian.Uint64(found[0]))
-		if epoch >= 1 && epoch <= top && epoch%2 == slot && same(laid(epoch, p), found) {
+		if k == 0 {
+			epoch = int(binary.BigEndian.Uint64(b))
+		}
+		if epoch < 1 || epoch > top || epoch%2 != slot {
+			return nil, 0
+		}
+		p = append(p, b[size-part:]...)
+		switch {
+		case bytes.HasPrefix(b, head(epoch, 0, 2*k+1)):
 			return p, epoch
+		case !bytes.HasPrefix(b, head(epoch, 0, 2*k)) || len(b) != size:
+			return nil, 0
 		}
 	}
 	return nil, 0
@@ -900,9 +908,7 @@ func foreign(k int, right []byte) map[string][]byte {
 	} else {
 		m["a middle one in place of the last one"] = sector(head(8, 0, 2*k), n)
 	}
-	if k > 0 {
-		m["a last piece without bytes"] = head(8, 0, 2*k+1)
-	}
+	m["no piece, and not the last one"] = head(8, 0, 2*k)
 	for at := 8; at < 24; at++ { // with bits of the first number inverted it may be another epoch's
 		for bit := range 8 {
 			if at == 23 && bit == 0 { // a last piece, or none
@@ -1025,7 +1031,7 @@ func TestSlotWithoutALastPiece(t *testing.T) {
 	}
 }
 
-// P8.2: a last piece of each length completes its slot; what follows is not examined. An empty one does so only if it is the first.
+// P8.2: a last piece of each length completes its slot; what follows is not examined.
 func TestEachLastPiece(t *testing.T) {
 	for slot := range 2 {
 		for k := range 4 {
@@ -1038,12 +1044,104 @@ func TestEachLastPiece(t *testing.T) {
 					}
 					lay(t, d, 1+5*slot+k, append(head(8+slot, 0, 2*k+1), p[k*part:]...))
 					lay(t, d, 1+5*slot+k+1, behind)
-					want, epoch := p, 8+slot
-					if n == 0 && k > 0 {
-						want, epoch = nil, 0
-					}
-					inAnyPower(t, fmt.Sprintf("slot %d, a last piece of %d bytes behind %d", slot, n, k), d, 1, 5, want, epoch)
+					inAnyPower(t, fmt.Sprintf("slot %d, a last piece of %d bytes behind %d", slot, n, k), d, 1, 5, p, 8+slot)
 				}
+			}
+		}
+	}
+}
+
+// endless lays whole pieces of p and, if they are not more than the slot has room for, an empty piece with a mark behind them.
+func endless(t *testing.T, d *sector.Disk, first, epoch, k, mark int, p []byte) {
+	t.Helper()
+	for i := range k {
+		lay(t, d, first+i, append(head(epoch, 0, 2*i), p[i*part:(i+1)*part]...))
+	}
+	lay(t, d, first+k, head(epoch, 0, mark))
+}
+
+// P8.2: no number of bytes is asked of a last piece: one without any, behind whole ones, completes its slot.
+func TestEmptyLastPieceBehindWholeOnes(t *testing.T) {
+	for n := 1; n <= 4; n++ {
+		for k := 1; k <= n; k++ {
+			for slot := range 2 {
+				for _, other := range []int{0, 3 - slot, 5 - slot, 1001 - slot} { // none, or one that is lesser or greater
+					p, q := row(51, k*part), row(52, 9)
+					d := disk(t, 2*n+3)
+					if other > 0 {
+						save(t, d, 1, n, other, q)
+					}
+					epoch := 4 + slot
+					want, greatest := p, epoch
+					if k == n { // the last piece lies outside the slot
+						want, greatest = nil, 0
+					}
+					if other > greatest && (k < n || slot == 1) {
+						want, greatest = q, other
+					}
+					endless(t, d, 1+slot*n, epoch, k, 2*k+1, p)
+					inAnyPower(t, fmt.Sprintf("%d sectors, %d whole pieces in slot %d, the other epoch %d", n, k, slot, other), d, 1, n, want, greatest)
+				}
+			}
+		}
+	}
+}
+
+// P8.2: an empty piece that is not the last one, or not the next one, or of another epoch, completes nothing.
+func TestEmptyPieceOfAnotherPlace(t *testing.T) {
+	p, q := row(53, 3*part), []byte{9}
+	for k := 1; k <= 3; k++ {
+		for mark := range 10 {
+			d := disk(t, 10)
+			save(t, d, 1, 4, 4, q)
+			endless(t, d, 5, 5, k, mark, p)
+			want, epoch := q, 4
+			if mark == 2*k+1 {
+				want, epoch = p[:k*part], 5
+			}
+			inAnyPower(t, fmt.Sprintf("the mark %d behind %d pieces", mark, k), d, 1, 4, want, epoch)
+		}
+		for _, foreign := range [][]byte{head(3, 0, 2*k+1), head(7, 0, 2*k+1), head(4, 0, 2*k+1), head(5, 1, 2*k+1), head(5, 0, 2*k+1)[:size-part-1], nil} {
+			d := disk(t, 10)
+			save(t, d, 1, 4, 4, q)
+			endless(t, d, 5, 5, k, 2*k+1, p)
+			lay(t, d, 5+k, foreign)
+			inAnyPower(t, fmt.Sprintf("%X behind %d pieces", foreign, k), d, 1, 4, q, 4)
+		}
+		d := disk(t, 10)
+		save(t, d, 1, 4, 4, q)
+		endless(t, d, 5, 5, k, 2*k+1, p)
+		tear(t, d, 5+k)
+		inAnyPower(t, fmt.Sprintf("a torn sector behind %d pieces", k), d, 1, 4, q, 4)
+	}
+}
+
+// P8.2: a piece ahead of an empty last one must have all of its bytes.
+func TestShortPieceAheadOfAnEmptyOne(t *testing.T) {
+	for k := 1; k <= 3; k++ {
+		for at := range k {
+			for n := range part {
+				d := disk(t, 10)
+				save(t, d, 1, 4, 4, row(55, 9))
+				endless(t, d, 5, 5, k, 2*k+1, row(56, k*part))
+				lay(t, d, 5+at, append(head(5, 0, 2*at), row(57, n)...))
+				inAnyPower(t, fmt.Sprintf("%d bytes in piece %d of %d", n, at, k), d, 1, 4, row(55, 9), 4)
+			}
+		}
+	}
+}
+
+// P8.3 and P8.4: a checkpoint whose last piece is empty stays until another one is saved, and is not mixed with it.
+func TestSaveBehindAnEmptyLastPiece(t *testing.T) {
+	for k := 1; k <= 3; k++ {
+		for _, n := range lengths {
+			for _, a := range attempts(n) {
+				d := disk(t, 10)
+				p := row(58, k*part)
+				endless(t, d, 1, 8, k, 2*k+1, p)
+				now, epoch := try(t, d, a, 59, p, 8)
+				save(t, d, 1, 4, epoch+1, row(60, n))
+				inAnyPower(t, fmt.Sprintf("%d whole pieces, %d bytes, now epoch %d of %d bytes", k, n, epoch, len(now)), d, 1, 4, row(60, n), epoch+1)
 			}
 		}
 	}
