@@ -567,7 +567,10 @@ func steps(at, n, epoch int, p []byte) []step {
 			l = append(l, step{sector: first + k, bytes: b})
 		}
 	}
-	return append(l, step{flush: true}, step{sector: first, bytes: sectors[0]}, step{flush: true})
+	if len(l) > 0 {
+		l = append(l, step{flush: true})
+	}
+	return append(l, step{sector: first, bytes: sectors[0]}, step{flush: true})
 }
 
 // fates are all lists of so many fates of a sector, torn in more than one way.
@@ -711,6 +714,40 @@ func interrupted(t *testing.T, g ground, epoch int, p []byte, done []step, x []i
 		}
 	}
 	loads(t, what+", and that one torn", d, 1, 4, want, now)
+}
+
+// P8.1: a Save of one piece is a write and a flush; there are two flushes if there are more pieces.
+func TestNumberOfOperations(t *testing.T) {
+	for n, want := range map[int]int{0: 2, 1: 2, 39: 2, 40: 2, 41: 4, 79: 4, 80: 4, 81: 5, 120: 5, 121: 6, 160: 6} {
+		for epoch := 1; epoch <= 4; epoch++ {
+			for left := range want + 2 {
+				d := disk(t, 10)
+				d.Arm(left)
+				no := api.OK
+				if left < want {
+					no = api.ErrDown
+				}
+				answers(t, fmt.Sprintf("%d bytes, epoch %d, %d operations", n, epoch, left), check.Save(d, 1, 4, epoch, row(61, n)), no)
+			}
+		}
+	}
+}
+
+// P8.1: a sector that was dirty ahead of a Save of one piece becomes durable with its sector, and not ahead of it.
+func TestNoFlushAheadOfASinglePiece(t *testing.T) {
+	for _, n := range []int{0, 1, 40, 41} {
+		d := disk(t, 10)
+		d.Write(9, []byte("dirty"))
+		d.Arm(len(laid(1, row(62, n))))
+		answers(t, fmt.Sprintf("%d bytes", n), check.Save(d, 1, 4, 2, row(62, n)), api.ErrDown)
+		want := []int{1, 9}
+		if n > part {
+			want = nil // its second piece is flushed, and the first one is not written yet
+		}
+		if !slices.Equal(d.Dirty(), want) {
+			t.Errorf("%d bytes: dirty are %v, want %v", n, d.Dirty(), want)
+		}
+	}
 }
 
 // P8.1: without power a Save that is not refused is answered with ErrDown, and nothing has changed.
